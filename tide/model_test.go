@@ -168,7 +168,7 @@ func TestFlowAgainstModel(t *testing.T) {
 			got := fmt.Sprint(n, no, f.Mark(), f.Panes(), f.Late())
 			want := fmt.Sprint(wantN, wantNo, m.mark, m.panes(), m.late)
 			if got != want {
-				t.Fatalf("P4 to P8: run %d, step %d, %+v:\n got %s\nwant %s", run, step, c, got, want)
+				t.Fatalf("P4, P5, P7, P8: run %d, step %d, %+v:\n got %s\nwant %s", run, step, c, got, want)
 			}
 		}
 	}

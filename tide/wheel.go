@@ -26,7 +26,7 @@ func newWheel() wheel {
 	return wheel{mark: minTime, tallies: map[int]tally{}}
 }
 
-// waiting finds or makes the tally of the window with that end, which lies behind the mark.
+// waiting finds or makes the tally of the window with that end, which must be greater than the mark.
 func (w *wheel) waiting(end int) tally {
 	t := w.tallies[end]
 	if t == nil {
@@ -60,7 +60,7 @@ func (w *wheel) turn(to int, tell func(end int, t tally)) {
 	w.drain(w.levels[top][from:upTo+1], tell)
 }
 
-// drain empties slots: ends that are still ahead find their place on a level further down.
+// drain empties slots: ends that the mark has not passed find their place on a level further down.
 func (w *wheel) drain(slots [][]int, tell func(end int, t tally)) {
 	for _, ends := range slots {
 		slices.Sort(ends)
