@@ -6,6 +6,7 @@ const (
 	maxBound = 1000
 	maxIdle  = 100
 	maxParts = 8
+	maxTicks = 1000
 )
 
 func good(c Config) bool {

@@ -1,15 +1,11 @@
 package tide
 
-import (
-	"maps"
-	"slices"
-	"strings"
-)
+import "strings"
 
 // part is what a flow keeps of one of its parts.
 type part struct {
+	silence
 	greatest int // the greatest time so far
-	silent   int // for how many ticks
 	ended    bool
 }
 
@@ -50,7 +46,7 @@ func (f *Flow) take(e Event) Errno {
 	// A key may be a piece of a far longer text of the caller's, which the flow must not hold on to.
 	e.Key = strings.Clone(e.Key)
 	p := &f.parts[e.Part]
-	p.silent = 0
+	p.breakSilence()
 	if !f.count(e) {
 		f.late = append(f.late, e)
 	}
@@ -81,8 +77,24 @@ func (f *Flow) end(number int) Errno {
 	return OK
 }
 
+// tick lets one tick pass. The mark moves with each tick, since a part may
+// hold it up at one tick and be idle at the next.
+func (f *Flow) tick() {
+	if f == nil {
+		return
+	}
+	for i := range f.parts {
+		if p := &f.parts[i]; !p.ended {
+			p.lengthen()
+		}
+	}
+	f.moveMark()
+}
+
 func (f *Flow) moveMark() {
-	f.wheel.turn(f.allowed(), f.tell)
+	f.wheel.turn(f.allowed(), func(end int, t tally) {
+		f.told = append(f.told, t.panes(end-f.config.Size, end)...)
+	})
 }
 
 // allowed is the time up to which the parts let the mark go: the mark itself,
@@ -94,7 +106,7 @@ func (f *Flow) allowed() int {
 			continue
 		}
 		allEnded = false
-		if !f.idle(p) {
+		if !p.isIdle(f.config.Idle) {
 			heard = true
 			least = min(least, less(p.greatest, f.config.Bound))
 		}
@@ -103,14 +115,4 @@ func (f *Flow) allowed() int {
 		return least
 	}
 	return f.wheel.mark
-}
-
-func (f *Flow) idle(p part) bool {
-	return f.config.Idle > 0 && p.silent >= f.config.Idle
-}
-
-func (f *Flow) tell(end int, t tally) {
-	for _, key := range slices.Sorted(maps.Keys(t)) {
-		f.told = append(f.told, Pane{end - f.config.Size, end, key, t[key]})
-	}
 }

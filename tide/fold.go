@@ -1,6 +1,10 @@
 package tide
 
-import "math"
+import (
+	"maps"
+	"math"
+	"slices"
+)
 
 const foldCount = 4
 
@@ -18,6 +22,15 @@ func (t tally) add(key string, value int, fold int) {
 		sofar = foldStarts[fold]
 	}
 	t[key] = folds[fold](sofar, value)
+}
+
+// panes tells what was folded, rising by keys.
+func (t tally) panes(begin, end int) []Pane {
+	list := make([]Pane, 0, len(t))
+	for _, key := range slices.Sorted(maps.Keys(t)) {
+		list = append(list, Pane{begin, end, key, t[key]})
+	}
+	return list
 }
 
 func countUp(sofar, _ int) int { return sofar + 1 }

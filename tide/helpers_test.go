@@ -35,6 +35,13 @@ func mustEnd(t *testing.T, f *Flow, parts ...int) {
 	}
 }
 
+func mustTick(t *testing.T, f *Flow, n int) {
+	t.Helper()
+	if no := f.Tick(n); no != OK {
+		t.Fatalf("P6: Tick(%d) = %d", n, no)
+	}
+}
+
 func wantMark(t *testing.T, f *Flow, want int) {
 	t.Helper()
 	if got := f.Mark(); got != want {

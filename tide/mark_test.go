@@ -51,25 +51,22 @@ func TestMarkDoesNotGoBack(t *testing.T) {
 func TestMarkLooksPastIdleParts(t *testing.T) {
 	f := mustNew(t, Config{Size: 10, Slide: 10, Idle: 2, Parts: 3})
 	mustPut(t, f, event(0, "a", 30, 0), event(1, "a", 40, 0))
-	f.parts[2].silent = 1
-	mustPut(t, f, event(0, "a", 31, 0))
+	mustTick(t, f, 1)
+	mustPut(t, f, event(0, "a", 31, 0), event(1, "a", 41, 0))
 	wantMark(t, f, math.MinInt)
-	f.parts[2].silent = 2
+	mustTick(t, f, 1)
+	wantMark(t, f, 31)
 	mustPut(t, f, event(0, "a", 32, 0))
 	wantMark(t, f, 32)
+	mustTick(t, f, 1)
+	wantMark(t, f, 32)
 	// All that have not ended are idle: the mark stays.
-	f.parts[1].silent = 2
 	mustEnd(t, f, 0)
 	wantMark(t, f, 32)
 	mustEnd(t, f, 1)
 	wantMark(t, f, 32)
 	mustEnd(t, f, 2)
 	wantMark(t, f, math.MaxInt)
-
-	f = mustNew(t, Config{Size: 10, Slide: 10, Idle: 0, Parts: 2})
-	f.parts[1].silent = 1000
-	mustPut(t, f, event(0, "a", 30, 0))
-	wantMark(t, f, math.MinInt)
 }
 
 func TestPanesAreToldInOrder(t *testing.T) {

@@ -75,6 +75,10 @@ func TestWhatNewRefusedDoesNotPanic(t *testing.T) {
 	if n, no := f.End(0); n != 0 || no != ErrPart {
 		t.Errorf("P1: End = %d, %d, want 0, ErrPart", n, no)
 	}
+	if no := f.Tick(1001); no != ErrArg {
+		t.Errorf("P1: Tick(1001) = %d, want ErrArg", no)
+	}
+	mustTick(t, f, 1)
 	if f.Mark() != 0 || f.Panes() != nil || f.Late() != nil {
 		t.Errorf("P1: %d, %v, %v, want 0, nil, nil", f.Mark(), f.Panes(), f.Late())
 	}

@@ -62,7 +62,7 @@ func TestPutOfALateEventCountsForTheMark(t *testing.T) {
 	// Part 1 ran ahead while part 0 was idle: part 0's next event is late, and its greatest time all the same.
 	f := mustNew(t, Config{Size: 10, Slide: 10, Idle: 1, Parts: 2})
 	mustPut(t, f, event(0, "a", 3, 0), event(1, "a", 90, 0))
-	f.parts[0].silent = 1
+	mustTick(t, f, 1)
 	mustPut(t, f, event(1, "a", 95, 0))
 	wantMark(t, f, 95)
 	mustPut(t, f, event(0, "b", 40, 0))
@@ -106,13 +106,10 @@ func TestPutAtTheEndsOfTime(t *testing.T) {
 
 func TestPutWakesAnIdlePart(t *testing.T) {
 	f := mustNew(t, Config{Size: 10, Slide: 10, Idle: 3, Parts: 2})
-	f.parts[1].silent = 3
+	mustTick(t, f, 3)
 	mustPut(t, f, event(0, "a", 25, 0))
 	wantMark(t, f, 25)
 	mustPut(t, f, event(1, "a", 22, 0))
-	if got := f.parts[1].silent; got != 0 {
-		t.Errorf("P4: after an event the part has been silent for %d ticks", got)
-	}
 	// Part 1 is heard again: it holds the mark, which does not go back.
 	wantMark(t, f, 25)
 	mustPut(t, f, event(0, "a", 80, 0))

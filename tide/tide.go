@@ -62,7 +62,15 @@ func (f *Flow) Put(events ...Event) (int, Errno) {
 }
 
 // Tick lets time pass (P6).
-func (f *Flow) Tick(n int) Errno { return 0 }
+func (f *Flow) Tick(n int) Errno {
+	if !within(n, 0, maxTicks) {
+		return ErrArg
+	}
+	for range n {
+		f.tick()
+	}
+	return OK
+}
 
 // End ends parts (P7).
 func (f *Flow) End(parts ...int) (int, Errno) {
