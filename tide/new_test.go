@@ -23,29 +23,10 @@ func TestNewStartsAtTheLeastTime(t *testing.T) {
 }
 
 func TestNewRefuses(t *testing.T) {
-	const least, greatest = math.MinInt, math.MaxInt
-	base := Config{Size: 10, Slide: 5, Bound: 5, Idle: 5, Parts: 5, Fold: 1}
-	for name, bad := range map[string]struct {
-		field   func(c *Config) *int
-		numbers []int
-	}{
-		"Size":  {func(c *Config) *int { return &c.Size }, []int{least, -10, 0, 4, 51, 1001, greatest}},
-		"Slide": {func(c *Config) *int { return &c.Slide }, []int{least, -5, 0, 11, greatest}},
-		"Bound": {func(c *Config) *int { return &c.Bound }, []int{least, -1, 1001, greatest}},
-		"Idle":  {func(c *Config) *int { return &c.Idle }, []int{least, -1, 101, greatest}},
-		"Parts": {func(c *Config) *int { return &c.Parts }, []int{least, -1, 0, 9, greatest}},
-		"Fold":  {func(c *Config) *int { return &c.Fold }, []int{least, -1, 4, greatest}},
-	} {
-		for _, number := range bad.numbers {
-			c := base
-			*bad.field(&c) = number
-			if f, no := New(c); f != nil || no != ErrArg {
-				t.Errorf("P3: New with %s %d = %v, %d, want nil, ErrArg", name, number, f, no)
-			}
+	for _, c := range wrongConfigs() {
+		if f, no := New(c); f != nil || no != ErrArg {
+			t.Errorf("P3: New(%+v) = %v, %d, want nil, ErrArg", c, f, no)
 		}
-	}
-	if f, no := New(Config{}); f != nil || no != ErrArg {
-		t.Errorf("P3: New(Config{}) = %v, %d, want nil, ErrArg", f, no)
 	}
 }
 

@@ -102,4 +102,10 @@ func (f *Flow) Late() []Event {
 }
 
 // Merge counts whole streams (P9).
-func Merge(c Config, streams ...[]Event) ([]Pane, []Event, Errno) { return nil, nil, 0 }
+func Merge(c Config, streams ...[]Event) ([]Pane, []Event, Errno) {
+	if !good(c) || len(streams) != c.Parts {
+		return nil, nil, ErrArg
+	}
+	panes, dropped := merge(c, streams)
+	return panes, dropped, OK
+}
